@@ -328,6 +328,23 @@ func TestMove(t *testing.T) {
 	}
 }
 
+// P18.3: a piece that is nearly all of a volume goes also when each of both nodes has 200 open ops, and comes back.
+func TestMoveGreat(t *testing.T) {
+	for _, n := range []int{2, 64, 65, 66, 1023, 1024} {
+		p := fresh(t, n, 4)
+		for off := 0; off < n; off += 64 {
+			p.does(t, write(off, row(uint64(1+off), min(64, n-off))...))
+		}
+		p.is(t, api.OK, move(0, 6)).sees(t).is(t, api.OK, move(n-1, 4)).sees(t)
+		p.does(t, split(n-1), move(n-1, 5)).sees(t)
+		p.does(t, times(200, write(0, 8))...).does(t, times(200, write(n-1, 9))...)
+		p.is(t, api.OK, move(0, 5)).sees(t).does(t, crash(4), crash(5)).sees(t)
+		p.does(t, snap(4, 1), snap(5, 1)).sees(t)
+		p.does(t, times(200, trim(n-2, 1))...).is(t, api.OK, move(0, 4)).sees(t)
+		p.does(t, crash(4), crash(5), snap(4, 2), snap(5, 2)).sees(t)
+	}
+}
+
 // P18.3: what the new node had in the piece's blocks is gone, also where they are 0; what the old one had stays there, until the piece comes back.
 func TestMoveBack(t *testing.T) {
 	p := fresh(t, 8, 0, 1).does(t, write(0, row(1, 8)...))
